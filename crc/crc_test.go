@@ -92,7 +92,7 @@ func TestStepNoTable(t *testing.T) {
 // 2.1: sums that are known.
 func TestOfKnown(t *testing.T) {
 	for s, want := range map[string]uint32{
-		"": 0, "123456789": 0xfc891918, "a": 0x19939b6b, "\x00": 0xb1f7404b, "\xff": 0xff,
+		"": 0, "123456789": 0xfc891918, "a": 0x19939b6b, "hello": 0x1931653d, "\x00": 0xb1f7404b, "\xff": 0xff,
 		strings.Repeat("\x00", 32): 0xb5aa5098, strings.Repeat("\xff", 4): 0xffffffff,
 	} {
 		if n := crc.Of(s); n != want || slow(s) != want {
