@@ -186,10 +186,11 @@ func (m *model) letter() api.Errno {
 	if e != api.OK {
 		return e
 	}
-	if !strings.Contains([]string{"B", "Z", "h", "123456789"}[m.read], string([]byte{byte(v)})) {
+	may := []string{"B", "Z", "h", "123456789"}[m.read]
+	m.read++
+	if !strings.Contains(may, string([]byte{byte(v)})) {
 		return api.ErrMagic
 	}
-	m.read++
 	m.level = int(v - '0')
 	return api.OK
 }
@@ -402,15 +403,39 @@ func TestLetters(t *testing.T) {
 				if was.mayEnd != (ahead != "" && place == 0) {
 					t.Fatalf("MayEnd behind %q: %v", begun, was.mayEnd)
 				}
+				// A byte that was read is one of a further stream, also if none of that kind may stand there.
+				was.mayEnd = false
 				if strings.Contains(may, like(byte(c), 1)) {
 					wantStep(t, u, r, unstream.Nothing, api.OK, 8*len(begun)+8)
-					was.mayEnd = false
 					wantState(t, u, was)
 					continue
 				}
 				wantStep(t, u, r, unstream.Nothing, api.ErrMagic, 8*len(begun)+8)
 				wantState(t, u, was)
 				wantWrong(t, u, r, api.ErrMagic)
+			}
+		}
+	}
+}
+
+// 22.1, 22.2: behind a stream of the empty text, and behind more of them, a byte that begins no further one is read, and then the input may not end, at once and behind each further step; where none is there, it may.
+func TestWrongByteBehindAStream(t *testing.T) {
+	ended := "BZh2\x17\x72\x45\x38\x50\x90\x00\x00\x00\x00"
+	for streams := 1; streams <= 3; streams++ {
+		ahead := strings.Repeat(ended, streams)
+		for _, wrong := range []string{"\x00", "x", "b", "ZBh9", "\xff\xff", "1" + ended} {
+			u, r := reader(t, 24), bits.NewReader(ahead)
+			reach(t, u, r, 8*len(ahead))
+			wantState(t, u, state{mayEnd: true})
+			wantNoStep(t, u, r, api.ErrShort)
+			wantNoStep(t, u, nil, api.ErrState)
+			r.More(wrong)
+			wantStep(t, u, r, unstream.Nothing, api.ErrMagic, 8*len(ahead)+8)
+			wantState(t, u, state{})
+			wantWrong(t, u, r, api.ErrMagic)
+			wantState(t, u, state{})
+			if text, e := unstream.With(24, ahead+wrong); text != "" || e != api.ErrMagic {
+				t.Fatalf("With %d streams and %q: %q, %v", streams, wrong, text, e)
 			}
 		}
 	}
